@@ -3,6 +3,7 @@ package paths
 import (
 	"cmp"
 	"iter"
+	"math/bits"
 	"slices"
 
 	"byway/api"
@@ -20,37 +21,54 @@ const step = 8
 
 // entry is a fact, with its ways by how many edges they have.
 type entry struct {
-	fact   api.Fact
-	lists  [api.MaxBound + 1][]code
-	splits []split
-	// same are the facts whose ways are ways of this one, too, since the other
-	// part of a split has the way without edges.
-	same []*entry
+	fact  api.Fact
+	lists [api.MaxBound + 1][]code
 }
 
-// split is two facts whose ways, one behind the other, are ways of a third.
-type split struct {
-	left, right *entry
+// end is a nonterminal with one of the nodes of a fact.
+type end struct {
+	nt, node int
+}
+
+// line is the facts with one end, by their other nodes; of each number of edges
+// the nodes of those that have such ways are kept as bits.
+type line struct {
+	entries [api.MaxNodes]*entry
+	has     [api.MaxBound + 1]uint32
+}
+
+// lines are such facts, by their ends.
+type lines map[end]*line
+
+func (l lines) at(nt, node int) *line {
+	x := l[end{nt, node}]
+	if x == nil {
+		x = &line{}
+		l[end{nt, node}] = x
+	}
+	return x
 }
 
 // finder finds the ways of a fact, and of all that it is made of.
 type finder struct {
-	c       api.Cnf
-	byHead  [][]api.Prod
-	labels  []string
-	nodes   []string
-	edges   []api.Edge // rising
-	places  map[api.Edge]int
-	closure *azimov.Closure
-	row     []*entry // the fact first
-	entries map[api.Fact]*entry
-	most    int
-	order   func(a, b code) int
+	c        api.Cnf
+	byHead   [][]api.Prod
+	empty    []bool // which nonterminals have the empty word?
+	labels   []string
+	nodes    []string
+	edges    []api.Edge // rising
+	places   map[api.Edge]int
+	closure  *azimov.Closure
+	row      []*entry // the fact first
+	from, to lines    // the facts of the row, by both ends
+	most     int
+	order    func(a, b code) int
+	crossed  []code // room for a list that is only offered
 }
 
 func finderOf(c api.Cnf, labels []string, g *graph.Graph, closure *azimov.Closure, f api.Fact, most int) *finder {
-	o := &finder{c: c, byHead: make([][]api.Prod, c.Nts), labels: labels, nodes: g.Nodes(), edges: g.Data().Edges,
-		places: map[api.Edge]int{}, closure: closure, entries: map[api.Fact]*entry{}, most: most, order: cmp.Compare[code]}
+	o := &finder{c: c, byHead: make([][]api.Prod, c.Nts), empty: emptyOf(c), labels: labels, nodes: g.Nodes(), edges: g.Data().Edges,
+		places: map[api.Edge]int{}, closure: closure, from: lines{}, to: lines{}, most: most, order: cmp.Compare[code]}
 	for i, x := range o.edges {
 		o.places[x] = i
 	}
@@ -59,40 +77,56 @@ func finderOf(c api.Cnf, labels []string, g *graph.Graph, closure *azimov.Closur
 	}
 	o.entry(f)
 	for i := 0; i < len(o.row); i++ {
-		e := o.row[i]
-		for _, p := range o.byHead[e.fact.Nt] {
-			for s := range o.parts(e.fact, p.Body) {
-				e.splits = append(e.splits, s)
+		x := o.row[i].fact
+		for _, p := range o.byHead[x.Nt] {
+			for left, right := range o.parts(x, p.Body) {
+				o.entry(left)
+				o.entry(right)
 			}
 		}
 	}
 	return o
 }
 
-// entry is a fact's, which is put down if it is new.
-func (o *finder) entry(f api.Fact) *entry {
-	e := o.entries[f]
-	if e == nil {
-		e = &entry{fact: f}
-		o.entries[f] = e
-		o.row = append(o.row, e)
+// emptyOf says which nonterminals have the empty word.
+func emptyOf(c api.Cnf) []bool {
+	is := make([]bool, c.Nts)
+	for more := true; more; {
+		more = false
+		for _, p := range c.Prods {
+			if is[p.Head] || len(p.Body) == 1 || slices.ContainsFunc(p.Body, func(s api.Sym) bool { return !is[s.N] }) {
+				continue
+			}
+			is[p.Head] = true
+			more = true
+		}
 	}
-	return e
+	return is
 }
 
-// parts are the splits of a fact by a body of two nonterminals.
-func (o *finder) parts(f api.Fact, body []api.Sym) iter.Seq[split] {
-	return func(yield func(split) bool) {
+// entry is a fact's, which is put down if it is new.
+func (o *finder) entry(f api.Fact) *entry {
+	x := o.from.at(f.Nt, f.From)
+	if x.entries[f.To] == nil {
+		e := &entry{fact: f}
+		x.entries[f.To] = e
+		o.to.at(f.Nt, f.To).entries[f.From] = e
+		o.row = append(o.row, e)
+	}
+	return x.entries[f.To]
+}
+
+// parts are the facts of which a body of two nonterminals makes a fact, with
+// all nodes in the middle.
+func (o *finder) parts(f api.Fact, body []api.Sym) iter.Seq2[api.Fact, api.Fact] {
+	return func(yield func(left, right api.Fact) bool) {
 		for mid := range o.nodes {
 			if len(body) < 2 {
 				return
 			}
 			left := api.Fact{Nt: body[0].N, From: f.From, To: mid}
 			right := api.Fact{Nt: body[1].N, From: mid, To: f.To}
-			if !o.has(left) || !o.has(right) {
-				continue
-			}
-			if !yield(split{o.entry(left), o.entry(right)}) {
+			if o.has(left) && o.has(right) && !yield(left, right) {
 				return
 			}
 		}
@@ -114,40 +148,37 @@ func (o *finder) find(edges int) found {
 				x.more = true
 				break
 			}
-			x.ways = append(x.ways, slices.Collect(o.spelt(w, n)))
+			x.ways = append(x.ways, o.spelt(w, n))
 		}
 	}
 	return x
 }
 
 // spelt are a way's edges.
-func (o *finder) spelt(w code, n int) iter.Seq[api.Edge] {
-	return func(yield func(api.Edge) bool) {
-		for i := n - 1; i >= 0; i-- {
-			if !yield(o.edges[w>>(step*i)&(1<<step-1)]) {
-				return
-			}
-		}
+func (o *finder) spelt(w code, n int) []api.Edge {
+	way := make([]api.Edge, n)
+	for i := range way {
+		way[i] = o.edges[w>>(step*(n-1-i))&(1<<step-1)]
 	}
+	return way
 }
 
 // level makes all lists of ways with so many edges, from those with fewer.
 func (o *finder) level(n int) {
 	for _, e := range o.row {
-		e.lists[n] = o.single(e.fact, n)
-		for _, s := range e.splits {
-			o.combine(e, s, n)
+		for _, p := range o.byHead[e.fact.Nt] {
+			if len(p.Body) == 2 {
+				o.combine(e, p.Body, n)
+			} else if len(p.Body) == n {
+				o.single(e, p.Body)
+			}
 		}
-	}
-	if n == 0 {
-		o.findEmpty()
-		return
 	}
 	for more := true; more; {
 		more = false
 		for _, e := range slices.Backward(o.row) {
-			for _, s := range e.same {
-				if o.offer(e, n, s.lists[n]) {
+			for _, p := range o.byHead[e.fact.Nt] {
+				if len(p.Body) == 2 && o.pass(e, p.Body, n) {
 					more = true
 				}
 			}
@@ -155,26 +186,68 @@ func (o *finder) level(n int) {
 	}
 }
 
-// single are the ways of so many edges that a production makes by itself.
-func (o *finder) single(f api.Fact, n int) []code {
-	var l []code
-	for _, p := range o.byHead[f.Nt] {
-		if len(p.Body) != n || n > 1 {
-			continue
+// single offers the way that an empty body, or one of a label, makes by itself.
+func (o *finder) single(e *entry, body []api.Sym) {
+	if len(body) == 0 {
+		if e.fact.From == e.fact.To {
+			o.offer(e, 0, []code{0})
 		}
-		if n == 0 {
-			if f.From == f.To {
-				l = append(l, 0)
-			}
-			continue
-		}
-		x := api.Edge{From: o.nodes[f.From], Label: o.labels[p.Body[0].N], To: o.nodes[f.To]}
-		if i, is := o.places[x]; is {
-			l = append(l, code(i))
+		return
+	}
+	x := api.Edge{From: o.nodes[e.fact.From], Label: o.labels[body[0].N], To: o.nodes[e.fact.To]}
+	if i, is := o.places[x]; is {
+		o.offer(e, 1, []code{code(i)})
+	}
+}
+
+// combine offers the ways both of whose parts have edges.
+func (o *finder) combine(e *entry, body []api.Sym, n int) {
+	if n < 2 {
+		return
+	}
+	left, right := o.from.at(body[0].N, e.fact.From), o.to.at(body[1].N, e.fact.To)
+	for k := 1; k < n; k++ {
+		for mids := left.has[k] & right.has[n-k]; mids != 0; mids &= mids - 1 {
+			mid := bits.TrailingZeros32(mids)
+			o.cross(e, n, left.entries[mid].lists[k], right.entries[mid].lists[n-k], step*(n-k))
 		}
 	}
-	slices.SortFunc(l, o.order)
-	return o.cut(slices.Compact(l))
+}
+
+// cross offers the ways of one list with those of another one behind them,
+// which take so many bits.
+func (o *finder) cross(e *entry, n int, left, right []code, shift int) {
+	if o.isBehind(e.lists[n], left[0]<<shift|right[0]) {
+		return
+	}
+	l := o.crossed[:0]
+	for _, w := range left {
+		for _, x := range right {
+			l = append(l, w<<shift|x)
+		}
+		if len(l) > o.most {
+			break
+		}
+	}
+	o.crossed = l
+	o.offer(e, n, o.cut(l))
+}
+
+// pass offers the ways of one part, where the other one has the way without
+// edges; was there something new?
+func (o *finder) pass(e *entry, body []api.Sym, n int) bool {
+	more := false
+	if o.empty[body[0].N] {
+		if x := o.from.at(body[1].N, e.fact.From).entries[e.fact.To]; x != nil {
+			more = o.offer(e, n, x.lists[n])
+		}
+	}
+	if o.empty[body[1].N] {
+		if x := o.from.at(body[0].N, e.fact.From).entries[e.fact.To]; x != nil {
+			more = o.offer(e, n, x.lists[n]) || more
+		}
+	}
+	return more
 }
 
 // cut is a list's beginning: one way more than are asked for tells that there
@@ -184,26 +257,6 @@ func (o *finder) cut(l []code) []code {
 	return l[:n:n]
 }
 
-// combine offers the ways of a split both of whose parts have edges.
-func (o *finder) combine(e *entry, s split, n int) {
-	for k := 1; k < n; k++ {
-		left, right := s.left.lists[k], s.right.lists[n-k]
-		if len(left) == 0 || len(right) == 0 || o.isBehind(e.lists[n], left[0]<<(step*(n-k))|right[0]) {
-			continue
-		}
-		var l []code
-		for _, w := range left {
-			for _, x := range right {
-				l = append(l, w<<(step*(n-k))|x)
-			}
-			if len(l) > o.most {
-				break
-			}
-		}
-		o.offer(e, n, o.cut(l))
-	}
-}
-
 // isBehind: does a list that is full end ahead of a way?
 func (o *finder) isBehind(l []code, w code) bool {
 	return len(l) > o.most && o.order(l[len(l)-1], w) < 0
@@ -211,13 +264,30 @@ func (o *finder) isBehind(l []code, w code) bool {
 
 // offer joins ways to a fact's; was there something new?
 func (o *finder) offer(e *entry, n int, l []code) bool {
-	if len(l) == 0 || o.isBehind(e.lists[n], l[0]) {
+	if !o.isNews(e.lists[n], l) {
 		return false
 	}
-	both := o.cut(joined(e.lists[n], l, o.order))
-	more := !slices.Equal(both, e.lists[n])
-	e.lists[n] = both
-	return more
+	e.lists[n] = o.cut(joined(e.lists[n], l, o.order))
+	o.from.at(e.fact.Nt, e.fact.From).has[n] |= 1 << e.fact.To
+	o.to.at(e.fact.Nt, e.fact.To).has[n] |= 1 << e.fact.From
+	return true
+}
+
+// isNews: has a list a way that is to stand in another one, and does not yet?
+func (o *finder) isNews(old, l []code) bool {
+	left := old
+	for _, w := range l {
+		if o.isBehind(old, w) {
+			return false
+		}
+		for len(left) > 0 && o.order(left[0], w) < 0 {
+			left = left[1:]
+		}
+		if len(left) == 0 || left[0] != w {
+			return true
+		}
+	}
+	return false
 }
 
 // joined are two lists as one, in order, each way once.
@@ -237,29 +307,4 @@ func joined(a, b []code, order func(a, b code) int) []code {
 		}
 	}
 	return append(append(both, a...), b...)
-}
-
-// findEmpty finds which facts have the way without edges, and then which have
-// the ways of others.
-func (o *finder) findEmpty() {
-	for more := true; more; {
-		more = false
-		for _, e := range slices.Backward(o.row) {
-			for _, s := range e.splits {
-				if len(s.left.lists[0]) > 0 && o.offer(e, 0, s.right.lists[0]) {
-					more = true
-				}
-			}
-		}
-	}
-	for _, e := range o.row {
-		for _, s := range e.splits {
-			if len(s.left.lists[0]) > 0 {
-				e.same = append(e.same, s.right)
-			}
-			if len(s.right.lists[0]) > 0 {
-				e.same = append(e.same, s.left)
-			}
-		}
-	}
 }
