@@ -141,17 +141,29 @@ func (o *finder) has(f api.Fact) bool {
 // find are the first ways of the fact with at most so many edges.
 func (o *finder) find(edges int) found {
 	var x found
-	for n := 0; n <= edges && !x.more; n++ {
-		o.level(n)
-		for _, w := range o.row[0].lists[n] {
-			if len(x.ways) == o.most {
-				x.more = true
-				break
-			}
-			x.ways = append(x.ways, o.spelt(w, n))
+	for way := range o.ways(edges) {
+		if len(x.ways) == o.most {
+			x.more = true
+			break
 		}
+		x.ways = append(x.ways, way)
 	}
 	return x
+}
+
+// ways are those of the fact in their order: longer ones are sought when there
+// are no shorter ones left.
+func (o *finder) ways(edges int) iter.Seq[[]api.Edge] {
+	return func(yield func([]api.Edge) bool) {
+		for n := range edges + 1 {
+			o.level(n)
+			for _, w := range o.row[0].lists[n] {
+				if !yield(o.spelt(w, n)) {
+					return
+				}
+			}
+		}
+	}
 }
 
 // spelt are a way's edges.

@@ -270,7 +270,9 @@ func TestSide(t *testing.T) {
 func TestApart(t *testing.T) {
 	m, g := machine(t, "S = a b;"), graph.New()
 	g.AddEdge("x", "a", "y")
-	x := closure(t, m, g)
+	handed := *m
+	x := closure(t, &handed, g)
+	handed = rsm.Machine{}
 	g.AddEdge("y", "b", "z")
 	agree(t, x, m)
 	x.Graph().AddEdge("y", "b", "q")
