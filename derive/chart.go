@@ -1,6 +1,7 @@
 package derive
 
 import (
+	"iter"
 	"math/bits"
 
 	"byway/api"
@@ -33,14 +34,24 @@ func (p places) and(o places) places {
 	return p
 }
 
-func (p places) list() []int {
-	var l []int
-	for i, w := range p {
-		for ; w != 0; w &= w - 1 {
-			l = append(l, 64*i+bits.TrailingZeros64(w))
+func (p places) less(o places) places {
+	for i, w := range o {
+		p[i] &^= w
+	}
+	return p
+}
+
+// all goes over the places, rising.
+func (p places) all() iter.Seq[int] {
+	return func(yield func(int) bool) {
+		for i, w := range p {
+			for ; w != 0; w &= w - 1 {
+				if !yield(64*i + bits.TrailingZeros64(w)) {
+					return
+				}
+			}
 		}
 	}
-	return l
 }
 
 // pair is a production of two nonterminals: its head, and one of the two.
@@ -104,12 +115,14 @@ func (k *chart) add(p piece) {
 // goOn adds what a piece makes with those beside it.
 func (k *chart) goOn(p piece) {
 	for _, x := range k.lefts[p.nt] {
-		for _, to := range k.ends[side{x.other, p.to}].list() {
+		fresh := k.ends[side{x.other, p.to}].less(k.ends[side{x.head, p.from}])
+		for to := range fresh.all() {
 			k.add(piece{x.head, p.from, to})
 		}
 	}
 	for _, x := range k.rights[p.nt] {
-		for _, from := range k.begins[side{x.other, p.from}].list() {
+		fresh := k.begins[side{x.other, p.from}].less(k.begins[side{x.head, p.to}])
+		for from := range fresh.all() {
 			k.add(piece{x.head, from, p.to})
 		}
 	}
@@ -117,6 +130,6 @@ func (k *chart) goOn(p piece) {
 
 // cuts are the places where a piece can be cut into one of a first nonterminal
 // and one of a second.
-func (k *chart) cuts(first, second, from, to int) []int {
-	return k.ends[side{first, from}].and(k.begins[side{second, to}]).list()
+func (k *chart) cuts(first, second, from, to int) places {
+	return k.ends[side{first, from}].and(k.begins[side{second, to}])
 }

@@ -13,8 +13,8 @@ const many = api.MaxSteps + 1
 // the word by its ends, and there of each nonterminal.
 type counts struct {
 	*chart
-	steps  map[side][]int // by where a piece begins, and where it ends
-	byHead [][]int        // the places of the productions
+	steps  [api.MaxPath + 1][api.MaxPath + 1][]int // by a piece's ends
+	byHead [][]int                                 // the places of the productions
 }
 
 // Tree: a derivation of a word that has as few steps as any.
@@ -35,7 +35,7 @@ func Tree(c api.Cnf, nt int, word ...int) ([]api.Step, api.Errno) {
 }
 
 func countsOf(k *chart) *counts {
-	n := &counts{k, map[side][]int{}, make([][]int, k.c.Nts)}
+	n := &counts{chart: k, byHead: make([][]int, k.c.Nts)}
 	for i, p := range k.c.Prods {
 		n.byHead[p.Head] = append(n.byHead[p.Head], i)
 	}
@@ -69,34 +69,36 @@ func settle(pieces []piece, better func(p piece) bool) {
 }
 
 // of is how many steps a piece's shortest derivation has, as far as it is known.
-func (n *counts) of(p piece) int {
-	return n.steps[side{p.from, p.to}][p.nt]
-}
+func (n *counts) of(p piece) int { return n.steps[p.from][p.to][p.nt] }
 
 // first sets what is known of pieces by all that is shorter.
 func (n *counts) first(pieces []piece) {
 	for _, p := range pieces {
-		at := side{p.from, p.to}
-		if n.steps[at] == nil {
-			n.steps[at] = slices.Repeat([]int{many}, n.c.Nts)
+		if n.steps[p.from][p.to] == nil {
+			n.steps[p.from][p.to] = slices.Repeat([]int{many}, n.c.Nts)
 		}
-		n.steps[at][p.nt] = n.best(p, func(cut int) bool { return p.from < cut && cut < p.to })
+		n.steps[p.from][p.to][p.nt] = n.best(p, func(cuts places) places {
+			return cuts.less(ends(p))
+		})
 	}
 }
 
+// ends are the places where a piece begins and ends.
+func ends(p piece) places { return places{}.with(p.from).with(p.to) }
+
 // better: is there a shorter one, one of whose parts is of an empty piece?
 func (n *counts) better(p piece) bool {
-	best := n.best(p, func(cut int) bool { return cut == p.from || cut == p.to })
+	best := n.best(p, func(cuts places) places { return cuts.and(ends(p)) })
 	if best >= n.of(p) {
 		return false
 	}
-	n.steps[side{p.from, p.to}][p.nt] = best
+	n.steps[p.from][p.to][p.nt] = best
 	return true
 }
 
 // best is how many steps there are at least, of derivations that are cut at
-// some places.
-func (n *counts) best(p piece, allowed func(cut int) bool) int {
+// some of the places where they can be.
+func (n *counts) best(p piece, some func(cuts places) places) int {
 	best := many
 	for _, i := range n.byHead[p.nt] {
 		body := n.c.Prods[i].Body
@@ -106,10 +108,9 @@ func (n *counts) best(p piece, allowed func(cut int) bool) int {
 			}
 			continue
 		}
-		for _, cut := range n.cuts(body[0].N, body[1].N, p.from, p.to) {
-			if allowed(cut) {
-				best = min(best, n.through(body, p, cut))
-			}
+		cuts := some(n.cuts(body[0].N, body[1].N, p.from, p.to))
+		for cut := range cuts.all() {
+			best = min(best, n.through(body, p, cut))
 		}
 	}
 	return best
@@ -150,7 +151,7 @@ func (n *counts) choose(p piece) (int, int) {
 			}
 			continue
 		}
-		for _, cut := range n.cuts(body[0].N, body[1].N, p.from, p.to) {
+		for cut := range n.cuts(body[0].N, body[1].N, p.from, p.to).all() {
 			if n.through(body, p, cut) == n.of(p) {
 				return i, cut
 			}
