@@ -193,6 +193,9 @@ func TestRules(t *testing.T) {
 	if g, e := cfg.Rules(cnf(2), []string{"S", long[:16]}, []string{"a"}); len(g) != 0 || e != api.OK {
 		t.Error(g, e)
 	}
+	if g, e := cfg.Rules(cnf(1, prod(0)), []string{"S"}, nil); len(g) != 1 || e != api.OK {
+		t.Error(g, e)
+	}
 }
 
 func TestManyRules(t *testing.T) {

@@ -189,7 +189,7 @@ func TestRight(t *testing.T) {
 		nt, from, to string
 		e            api.Errno
 	}{
-		{nil, bad, "Q", "q", "q", api.ErrRules}, {r, bad, "Q", "q", "q", api.ErrArg}, {r, g, "Q", "x", "x", api.ErrNone}, {r, g, "S", "q", "x", api.ErrNone}, {r, g, "S", "x", "q", api.ErrNone}, {r, g, "S", "x", "x", api.ErrLong},
+		{r, graph(t, "x b x;"), "S", "x", "x", api.ErrLong}, {nil, bad, "Q", "q", "q", api.ErrRules}, {r, bad, "Q", "q", "q", api.ErrArg}, {r, g, "Q", "x", "x", api.ErrNone}, {r, g, "S", "q", "x", api.ErrNone}, {r, g, "S", "x", "q", api.ErrNone}, {r, g, "S", "x", "x", api.ErrLong},
 	} {
 		if is, e := check.Right(c.r, c.g, c.nt, c.from, c.to, around(65)); is || e != c.e {
 			t.Error(i, is, e)
@@ -228,6 +228,16 @@ func TestTree(t *testing.T) {
 			}
 		}
 	}
+	// A text between two labels is none of them.
+	for _, text := range []string{"aa", "a0", "c", "", "B"} {
+		if is, e := check.Tree(rules(t, "S = b; T = a;"), "S", []string{text}, treeOf(t, "S = b; T = a;", 0, 1)); is || e != api.OK {
+			t.Error(text, is, e)
+		}
+	}
+	long := slices.Repeat([]int{0}, 64)
+	if is, e := check.Tree(rules(t, "S = a*;"), "S", slices.Repeat([]string{"a"}, 64), treeOf(t, "S = a*;", 0, long...)); !is || e != api.OK {
+		t.Error(is, e)
+	}
 	for count, want := range map[int]api.Errno{4096: api.OK, 4097: api.ErrLong} {
 		if is, e := check.Tree(r, "S", nil, make([]api.Step, count)); is || e != want {
 			t.Error(count, is, e)
@@ -236,6 +246,17 @@ func TestTree(t *testing.T) {
 	if is, e := check.Tree(r, "S", spell("z"), make([]api.Step, 4097)); is || e != api.ErrLong {
 		t.Error(is, e)
 	}
+}
+
+// treeOf is a derivation of a word by a nonterminal of a grammar's text.
+func treeOf(t *testing.T, text string, nt int, word ...int) []api.Step {
+	t.Helper()
+	c, _ := wcnf.New(rules(t, text))
+	l, e := derive.Tree(c, nt, word...)
+	if e != api.OK {
+		t.Fatal(text, e)
+	}
+	return l
 }
 
 // P27.4

@@ -339,6 +339,25 @@ func TestManySteps(t *testing.T) {
 	}
 }
 
+// What is short may be known later than what is long, and than what is made of
+// that.
+func TestShortButLate(t *testing.T) {
+	// 0 of nothing by doubling: 1 of 2 2 and so on, 5 of nothing; and by a chain
+	// that is one longer: 10 of 11 5, 11 of 12 5 and so on.
+	c := cnf(20, prod(0, nt(1), nt(1)), prod(5))
+	for i := 1; i < 5; i++ {
+		c.Prods = append(c.Prods, prod(i, nt(i+1), nt(i+1)))
+	}
+	c.Prods = append(c.Prods, prod(1, nt(10), nt(5)), prod(16))
+	for i := 10; i < 16; i++ {
+		c.Prods = append(c.Prods, prod(i, nt(i+1), nt(5)))
+	}
+	want := fewest(c, 0, nil)
+	if l, e := derive.Tree(c, 0); len(l) != want || want != 2*(2+2*6+1)+1 || e != api.OK {
+		t.Error(len(l), want, e)
+	}
+}
+
 func TestWhatFollows(t *testing.T) {
 	n := sample.Noise(5)
 	words := sample.Words([]string{"0", "1"}, 2)

@@ -185,7 +185,13 @@ func same(t *testing.T, a, b *engine.Engine) {
 		t.Fatal(a.Save(), b.Save())
 	}
 	for _, line := range []string{"rules", "edges", "size", "query matrix S", "query tensor S", "query gll S", "query gll T", "path S x x", "path S x y", "paths S x x 4 64", "paths S y x 5 3", "node x", "edge x a y", "query gll S", "query matrix S", "query tensor S"} {
-		if x, y := a.Line(line), b.Line(line); x != y {
+		x, y := a.Line(line), b.Line(line)
+		if strings.HasPrefix(line, "path ") {
+			// Which shortest way is told may be another one.
+			x, _, _ = strings.Cut(x, "\n")
+			y, _, _ = strings.Cut(y, "\n")
+		}
+		if x != y {
 			t.Fatal(line, x, y)
 		}
 	}

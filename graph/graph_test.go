@@ -203,8 +203,8 @@ func refused(t *testing.T, g *graph.Graph) {
 				t.Error(x, is, e)
 			}
 		}
-		if _, e := g.Node(name); e != api.ErrNone {
-			t.Error(name, e)
+		if n, e := g.Node(name); n != 0 || e != api.ErrNone {
+			t.Error(name, n, e)
 		}
 	}
 	for _, label := range []string{"X", "9", "_x"} {
@@ -314,9 +314,12 @@ func TestNil(t *testing.T) {
 		if nodes != 0 || count != 0 || len(g.Nodes()) != 0 || len(g.Labels()) != 0 || g.Has("a", "x", "a") || g.Copy() != nil || len(data.Nodes) != 0 || len(data.Edges) != 0 {
 			t.Error("a nil graph is something")
 		}
-		_, e1 := g.AddNode("-")
-		_, e2 := g.AddEdge("-", "", "")
-		_, e3 := g.Node("a")
+		is1, e1 := g.AddNode("-")
+		is2, e2 := g.AddEdge("-", "", "")
+		n, e3 := g.Node("a")
+		if is1 || is2 || n != 0 {
+			t.Error("an answer beside an error")
+		}
 		_, e4 := g.Out(0)
 		_, e5 := g.In(-1)
 		_, e6 := g.Matrix("x", -1)

@@ -190,9 +190,12 @@ func TestErrors(t *testing.T) {
 	for _, none := range []*quad.Matrix{nil, new(quad.Matrix)} {
 		_, e1 := kron.Product(none, big)
 		_, e2 := kron.Product(big, none)
-		_, e3 := kron.Into(none, big, big)
-		_, e4 := kron.Into(m, none, big)
-		_, e5 := kron.Into(m, big, none)
+		is3, e3 := kron.Into(none, big, big)
+		is4, e4 := kron.Into(m, none, big)
+		is5, e5 := kron.Into(m, big, none)
+		if is3 || is4 || is5 {
+			t.Error("an answer beside an error")
+		}
 		_, e6 := kron.Square(none, 0, 0, 0)
 		_, e7 := kron.Outer(none, 0)
 		_, e8 := kron.Inner(none, 3)

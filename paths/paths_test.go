@@ -240,6 +240,51 @@ func TestMany(t *testing.T) {
 	}
 }
 
+// Rings of nonterminals that hand their ways round, by an empty one on either
+// side, into which two others lead at unlike places.
+func TestRings(t *testing.T) {
+	g := graphOf(nil, nil)
+	for _, l := range []string{"a", "b", "c"} {
+		g.AddEdge("u", l, "v")
+	}
+	for _, l := range []string{"x", "y"} {
+		g.AddEdge("v", l, "w")
+	}
+	labels := []string{"a", "b", "c", "x", "y"}
+	for _, ahead := range []bool{true, false} {
+		of := func(head, whole int) api.Prod {
+			if ahead {
+				return prod(head, nt(6), nt(whole))
+			}
+			return prod(head, nt(whole), nt(6))
+		}
+		// 0 of 3 4 and of 2 5; 1 has a, 2 has b, 3 has c, and 1 of 2, 2 of 3, 3 of 1; 6 is empty.
+		c := cnf(7, prod(0, nt(3), nt(4)), prod(0, nt(2), nt(5)), of(1, 2), of(2, 3), of(3, 1), prod(1, label(0)), prod(2, label(1)), prod(3, label(2)), prod(4, label(3)), prod(5, label(4)), prod(6))
+		var want [][]api.Edge
+		for _, l := range []string{"a", "b", "c"} {
+			for _, k := range []string{"x", "y"} {
+				want = append(want, []api.Edge{edge("u", l, "v"), edge("v", k, "w")})
+			}
+		}
+		for most := range 8 {
+			list, more, e := paths.All(c, labels, g, fact(0, 0, 2), 2, most)
+			if e != api.OK || more != (most < 6) || !same(list, want[:min(most, 6)]) {
+				t.Error(ahead, most, list, more, e)
+			}
+		}
+	}
+}
+
+// What comes from another nonterminal stands behind what is there already.
+func TestBehind(t *testing.T) {
+	g := graphOf(nil, []api.Edge{edge("u", "a", "v"), edge("u", "b", "v")})
+	c := cnf(3, prod(0, nt(1), nt(2)), prod(0, label(0)), prod(1, label(1)), prod(2))
+	want := [][]api.Edge{{edge("u", "a", "v")}, {edge("u", "b", "v")}}
+	for most := range 4 {
+		agree(t, c, g, fact(0, 0, 1), 3, most, want)
+	}
+}
+
 // All edges that there may be: their places take all of a byte.
 func TestAllEdges(t *testing.T) {
 	g := graph.New()

@@ -402,15 +402,18 @@ func nothing(t *testing.T, none *quad.Matrix) {
 	for range none.Blocks() {
 		t.Error("a block")
 	}
-	_, e1 := none.Get(-1, 0)
-	_, e2 := none.Set(0, 0)
-	_, e3 := none.Row(0)
-	_, e4 := none.Block(0, 0)
-	_, e5 := none.Put(0, 0, api.Block{})
+	is, e1 := none.Get(-1, 0)
+	fresh, e2 := none.Set(0, 0)
+	row, e3 := none.Row(0)
+	b, e4 := none.Block(0, 0)
+	put, e5 := none.Put(0, 0, api.Block{})
 	for _, e := range []api.Errno{e1, e2, e3, e4, e5} {
 		if e != api.ErrNil {
 			t.Error(e)
 		}
+	}
+	if is || fresh || row != nil || b != (api.Block{}) || put {
+		t.Error("an answer beside an error")
 	}
 }
 

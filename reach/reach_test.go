@@ -260,7 +260,10 @@ func TestNil(t *testing.T) {
 		if k.Side() != 0 || k.Len() != 0 || k.Steps() != nil || k.Matrix() != nil || k.Copy() != nil {
 			t.Error("a nil keeper is something")
 		}
-		_, e1 := k.Has(-1, 0)
+		is, e1 := k.Has(-1, 0)
+		if is {
+			t.Error("an answer beside an error")
+		}
 		_, e2 := k.Add(-1, 0)
 		_, e3 := k.Join(m)
 		_, e4 := k.Join(of(t, 7))

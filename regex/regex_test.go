@@ -116,7 +116,7 @@ func deep(stars int) []api.Node {
 // P7.1
 func TestCheckTree(t *testing.T) {
 	for _, l := range [][]api.Node{
-		tree(empty), tree(name("A")), tree(label("a")), tree(name("Z_9aB")), tree(label("z_9aB")), tree(name(strings.Repeat("A", 16))),
+		tree(empty), tree(name("A")), tree(label("a")), tree(name("Z_9aB")), tree(label("z_9aB")), tree(name("A0Z9az_")), tree(label("z0AZa9_")), tree(name(strings.Repeat("A", 16))),
 		tree(node(api.KindSeq, 2), empty, empty), tree(node(api.KindAlt, 3), name("S"), node(api.KindOpt, 1), label("x"), empty),
 		deep(15), longTree(500, "a"),
 	} {

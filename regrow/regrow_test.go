@@ -209,9 +209,12 @@ func TestErrors(t *testing.T) {
 		}
 	}
 	for _, x := range []*regrow.Closure{nil, new(regrow.Closure)} {
-		_, _, e1 := x.AddNode("-")
-		_, _, e2 := x.AddEdge("-", "", "")
-		_, e3 := x.Has(fact(-1, 0, 0))
+		l1, is1, e1 := x.AddNode("-")
+		l2, is2, e2 := x.AddEdge("-", "", "")
+		is3, e3 := x.Has(fact(-1, 0, 0))
+		if l1 != nil || l2 != nil || is1 || is2 || is3 {
+			t.Error("an answer beside an error")
+		}
 		_, e4 := x.Pairs(-1)
 		if e1 != api.ErrNil || e2 != api.ErrNil || e3 != api.ErrNil || e4 != api.ErrNil {
 			t.Error(e1, e2, e3, e4)

@@ -397,6 +397,10 @@ func saved(t *testing.T, n *sample.Noise, s *session.Session, m model) {
 			continue
 		}
 		a, b, c := answer(t, s, line), answer(t, made, line), answer(t, other, line)
+		if strings.HasPrefix(line, "path ") {
+			// Which shortest way is told may be another one.
+			a, b, c = a[:1], b[:1], c[:1]
+		}
 		if !slices.Equal(a, b) || !slices.Equal(a, c) {
 			t.Fatal(line, a, b, c)
 		}

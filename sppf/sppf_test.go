@@ -233,6 +233,10 @@ func TestCheck(t *testing.T) {
 			t.Error(i, sppf.Check(x), e)
 		}
 	}
+	twice := api.Forest{Spots: []api.Fact{fact(0, 0, 0), fact(0, 0, 0)}, Packs: []api.Pack{leaf(0, 0), leaf(1, 0)}}
+	if e := sppf.Check(twice); e != api.ErrForest {
+		t.Error(e)
+	}
 	negative := api.Forest{Spots: []api.Fact{fact(0, -1, -1)}, Packs: []api.Pack{{Mid: -1}}}
 	if e := sppf.Check(negative); e != api.ErrForest {
 		t.Error(e)

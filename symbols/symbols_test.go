@@ -150,8 +150,11 @@ func TestNil(t *testing.T) {
 		if len(x.Names()) != 0 || len(x.Labels()) != 0 || len(all(x)) != 0 {
 			t.Error("names of no table")
 		}
-		_, e1 := x.Nt("S")
-		_, e2 := x.Label("a")
+		n1, e1 := x.Nt("S")
+		n2, e2 := x.Label("a")
+		if n1 != 0 || n2 != 0 {
+			t.Error("an answer beside an error")
+		}
 		_, e3 := x.Sym(api.Node{Kind: api.KindStar})
 		_, e4 := x.Name(nt(-1))
 		_, e5 := x.Word("a")

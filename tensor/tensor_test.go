@@ -174,10 +174,10 @@ func TestNil(t *testing.T) {
 		}
 	}
 	for _, c := range []*tensor.Closure{nil, new(tensor.Closure)} {
-		_, e1 := c.Has(api.Fact{Nt: -1})
+		is, e1 := c.Has(api.Fact{Nt: -1})
 		_, e2 := c.Pairs(-1)
 		_, e3 := c.Stands(-1, 0)
-		if c.Len() != 0 || len(slices.Collect(c.Facts())) != 0 || e1 != api.ErrNil || e2 != api.ErrNil || e3 != api.ErrNil {
+		if is || c.Len() != 0 || len(slices.Collect(c.Facts())) != 0 || e1 != api.ErrNil || e2 != api.ErrNil || e3 != api.ErrNil {
 			t.Error(e1, e2, e3)
 		}
 	}
